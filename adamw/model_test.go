@@ -198,8 +198,8 @@ func taskOf(r *rand.Rand) task {
 	}
 }
 
-// list is a vector written out.
-func list(parts ...api.Fix) []api.Fix { return parts }
+// list is a vector written out; one of no part is empty, not nil.
+func list(parts ...api.Fix) []api.Fix { return append([]api.Fix{}, parts...) }
 
 // full is a vector of n parts that are all alike.
 func full(n int, x api.Fix) []api.Fix {

@@ -230,8 +230,8 @@ func fullSizes(n, size int) []int {
 	return out
 }
 
-// list is a vector written out.
-func list(parts ...api.Fix) []api.Fix { return parts }
+// list is a vector written out; one of no part is empty, not nil.
+func list(parts ...api.Fix) []api.Fix { return append([]api.Fix{}, parts...) }
 
 // sizesOf is sizes written out.
 func sizesOf(sizes ...int) []int { return sizes }

@@ -117,5 +117,5 @@ func checkRefused(t *testing.T, name string, c call, e api.Errno) {
 	checkTold(t, name, c, told{e: e}, 0)
 }
 
-// list is a vector written out.
-func list(parts ...api.Fix) []api.Fix { return parts }
+// list is a vector written out; one of no part is empty, not nil.
+func list(parts ...api.Fix) []api.Fix { return append([]api.Fix{}, parts...) }
